@@ -316,6 +316,16 @@ func degree(f []int64) int64 {
 	return int64(len(f)) - 1
 }
 
+// opposite returns -x modulo p, for x in 0..p - 1.
+func opposite(p, x int64) int64 {
+	return (p - x) % p
+}
+
+// linear returns the polynomial x - a.
+func linear(p, a int64) []int64 {
+	return []int64{opposite(p, a), 1}
+}
+
 // inverse returns the power p - 2 of x, which is its inverse by Fermat's theorem.
 func inverse(p, x int64) int64 {
 	return numbersModulo(p).power(number{x}, p-2)[0]
@@ -396,7 +406,7 @@ func interpolate(p int64, nodes, values []int64) []int64 {
 		missing := (values[i] + p - evaluateAt(p, f, x)) % p
 		factor := missing * inverse(p, evaluateAt(p, product, x)) % p
 		f = addMultiple(p, f, product, factor)
-		product = multiply(p, product, []int64{(p - x) % p, 1})
+		product = multiply(p, product, linear(p, x))
 	}
 	return f
 }

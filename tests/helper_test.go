@@ -66,6 +66,14 @@ func fails(t *testing.T, name string, r result, code int64) {
 	}
 }
 
+// sound checks that a call returned a code, and nothing beside an error.
+func sound(t *testing.T, name string, r result) {
+	t.Helper()
+	if r.code < impl.ErrNone || r.code > impl.ErrSyntax || r.code != impl.ErrNone && !r.isZero() {
+		t.Errorf("%s = %v", name, r)
+	}
+}
+
 // lists checks that a call returned these lists and ErrNone.
 func lists(t *testing.T, name string, r result, want ...[]int64) {
 	t.Helper()
@@ -129,18 +137,29 @@ func pure(t *testing.T, name string, call func(g *guards) result) {
 	}
 	want := r.clone()
 	for i := range r.lists {
+		apart(t, name, call(&guards{}).lists, i)
 		overwrite(r.lists[i])
-		for k := i + 1; k < len(r.lists); k++ {
-			if !slices.Equal(r.lists[k], want.lists[k]) {
-				t.Errorf("%s: its results %d and %d share memory", name, i, k)
-			}
-		}
 	}
 	if !g.unchanged() {
 		t.Errorf("%s: a result shares memory with an argument", name)
 	}
 	if again := call(&guards{}); !again.equals(want) {
 		t.Errorf("%s = %v, then %v", name, want, again)
+	}
+}
+
+// apart checks that overwriting the list at i changes no other one, nor its spare capacity.
+func apart(t *testing.T, name string, all [][]int64, i int) {
+	t.Helper()
+	var before [][]int64
+	for _, f := range all {
+		before = append(before, slices.Clone(f[:cap(f)]))
+	}
+	overwrite(all[i])
+	for k, f := range all {
+		if k != i && !slices.Equal(f[:cap(f)], before[k]) {
+			t.Errorf("%s: its results %d and %d share memory", name, i, k)
+		}
 	}
 }
 

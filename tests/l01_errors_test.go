@@ -109,11 +109,6 @@ func TestDivisorsOfZero(t *testing.T) {
 func TestAnyArguments(t *testing.T) {
 	numbers := append([]int64{0, 1, 2, 3, 24, 25, 10006, 10007, 1000000000, 1000000001}, noPrimes...)
 	someLists := append(badPolys(7), nil, []int64{}, []int64{1}, []int64{0, 1}, longest(2), longest(7), ofDegree(24))
-	check := func(name string, r result) {
-		if r.code < impl.ErrNone || r.code > impl.ErrSyntax || r.code != impl.ErrNone && !r.isZero() {
-			t.Errorf("%s = %v", name, r)
-		}
-	}
 	for _, p := range append([]int64{2, 3, 7, 10007}, noPrimes...) {
 		for _, f := range someLists {
 			impl.IsPoly(p, f)
@@ -121,17 +116,17 @@ func TestAnyArguments(t *testing.T) {
 				for _, k := range numbers {
 					for _, c := range polyCalls {
 						if c.count == 2 || len(g) == 0 {
-							check(c.name, c.call(p, f, g, k))
+							sound(t, c.name, c.call(p, f, g, k))
 						}
 					}
 				}
-				check("InterpolatePoly", listResult(impl.InterpolatePoly(p, f, g)))
+				sound(t, "InterpolatePoly", listResult(impl.InterpolatePoly(p, f, g)))
 			}
 		}
 		for _, x := range numbers {
-			check("InverseOf", numResult(impl.InverseOf(p, x)))
+			sound(t, "InverseOf", numResult(impl.InverseOf(p, x)))
 			for _, k := range numbers {
-				check("PowerOf", numResult(impl.PowerOf(p, x, k)))
+				sound(t, "PowerOf", numResult(impl.PowerOf(p, x, k)))
 			}
 		}
 	}

@@ -40,28 +40,45 @@ func slowFunctional(m impl.Moments, f []int64) int64 {
 	return sum
 }
 
-// slowHankel adds up the products of the elements of h(k) over all permutations, those that begin
-// with the same set of columns together.
+// slowHankel takes the determinant of its rows.
 func slowHankel(m impl.Moments, k int) int64 {
-	sums := map[uint]int64{0: 1}
-	for i := range k {
-		next := map[uint]int64{}
-		for used, sum := range sums {
-			for column := range k {
-				if used>>column&1 == 1 {
-					continue
-				}
-				x := sum * m.List[i+column]
-				// Each column in use behind this one is an inversion.
-				if bits.OnesCount(used>>column)%2 == 1 {
-					x = -x
-				}
-				next[used|1<<column] = modulo(m.Prime, next[used|1<<column]+x)
-			}
-		}
-		sums = next
+	rows := make([][]int64, k)
+	for i := range rows {
+		rows[i] = m.List[i : i+k]
 	}
-	return sums[1<<k-1]
+	return slowDeterminant(m.Prime, rows)
+}
+
+// slowDeterminant adds up the products of the elements over all permutations.
+func slowDeterminant(p int64, rows [][]int64) int64 {
+	sums := slowSubsets(p, rows, len(rows))
+	return sums[len(sums)-1]
+}
+
+// slowSubsets returns, for each set of as many columns as there are rows, the determinant of these
+// columns: products over permutations that begin with the same set are added up together.
+func slowSubsets(p int64, rows [][]int64, columns int) []int64 {
+	sums := make([]int64, 1<<columns)
+	sums[0] = 1
+	for used, sum := range sums {
+		i := bits.OnesCount(uint(used))
+		if sum == 0 || i == len(rows) {
+			continue
+		}
+		for column := range columns {
+			if used>>column&1 == 1 {
+				continue
+			}
+			x := sum * rows[i][column]
+			// Each column in use behind this one is an inversion.
+			if bits.OnesCount(uint(used>>column))%2 == 1 {
+				x = -x
+			}
+			next := used | 1<<column
+			sums[next] = modulo(p, sums[next]+x)
+		}
+	}
+	return sums
 }
 
 func slowOrder(m impl.Moments) int64 {

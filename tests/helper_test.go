@@ -148,6 +148,26 @@ func pure(t *testing.T, name string, call func(g *guards) result) {
 	}
 }
 
+// pureRows is pure for a call with a list of lists, and checks that this list is not changed either.
+func pureRows(t *testing.T, name string, numbers [][]int64, call func(rows [][]int64) result) {
+	t.Helper()
+	pure(t, name, func(g *guards) result {
+		whole := [][]int64{}
+		for _, row := range numbers {
+			whole = append(whole, g.list(row...))
+		}
+		whole = append(whole, []int64{-71}, nil)
+		before := slices.Clone(whole)
+		r := call(whole[:len(numbers)])
+		for i := range whole {
+			if !slices.Equal(whole[i], before[i]) || len(whole[i]) > 0 && &whole[i][0] != &before[i][0] {
+				t.Errorf("%s changed a list of lists", name)
+			}
+		}
+		return r
+	})
+}
+
 // apart checks that overwriting the list at i changes no other one, nor its spare capacity.
 func apart(t *testing.T, name string, all [][]int64, i int) {
 	t.Helper()

@@ -73,23 +73,30 @@ func slowCompose(p int64, f, g []int64) []int64 {
 	return sum
 }
 
+// allLists returns all lists of n numbers modulo p.
+func allLists(p int64, n int) [][]int64 {
+	all := [][]int64{{}}
+	for range n {
+		var longer [][]int64
+		for _, list := range all {
+			for x := range p {
+				longer = append(longer, append(list[:len(list):len(list)], x))
+			}
+		}
+		all = longer
+	}
+	return all
+}
+
 // allPolys returns all polynomials for p with at most n numbers.
 func allPolys(p int64, n int) [][]int64 {
 	all := [][]int64{{}}
-	lists := [][]int64{{}}
-	for range n {
-		var longer [][]int64
-		for _, f := range lists {
-			for c := range p {
-				longer = append(longer, append(f[:len(f):len(f)], c))
-			}
-		}
-		for _, f := range longer {
-			if f[len(f)-1] != 0 {
+	for count := 1; count <= n; count++ {
+		for _, f := range allLists(p, count) {
+			if f[count-1] != 0 {
 				all = append(all, f)
 			}
 		}
-		lists = longer
 	}
 	return all
 }

@@ -8,7 +8,7 @@ import (
 	"loop.example/g01283/impl"
 )
 
-// dataCall is a function of the chapters 3 and 4 that takes data and at most two numbers; its ranges are the
+// dataCall is a function of the chapters 3 to 5 that takes data and at most two numbers; its ranges are the
 // limits of these numbers for the prime p and data of n numbers.
 type dataCall struct {
 	name   string
@@ -44,6 +44,9 @@ var dataCalls = []dataCall{
 	}},
 	{"MomentsOfJacobi", func(p, n int64) [][2]int64 { return [][2]int64{{1, 2 * n}} }, func(j impl.Jacobi, a, b int64) result {
 		return momentsResult(impl.MomentsOfJacobi(j, a))
+	}},
+	{"SeriesOfJacobi", func(p, n int64) [][2]int64 { return [][2]int64{{0, 24}} }, func(j impl.Jacobi, a, b int64) result {
+		return listResult(impl.SeriesOfJacobi(j, a))
 	}},
 }
 

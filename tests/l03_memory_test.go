@@ -57,20 +57,8 @@ func TestMemoryOfData(t *testing.T) {
 func TestMemoryOfMatrices(t *testing.T) {
 	// The first number of the second row is 0, so that rows change places.
 	for _, numbers := range [][][]int64{{{1, 2, 3}, {0, 4, 5}, {6, 1, 2}}, {{1, 2, 3}, {2, 4, 5}, {6, 1, 2}}, {{4}}, {}} {
-		pure(t, "CharacteristicPoly", func(g *guards) result {
-			whole := [][]int64{}
-			for _, row := range numbers {
-				whole = append(whole, g.list(row...))
-			}
-			whole = append(whole, []int64{-71}, nil)
-			before := slices.Clone(whole)
-			r := listResult(impl.CharacteristicPoly(7, whole[:len(numbers)]))
-			for i := range whole {
-				if !slices.Equal(whole[i], before[i]) || len(whole[i]) > 0 && &whole[i][0] != &before[i][0] {
-					t.Errorf("CharacteristicPoly changed the list of rows")
-				}
-			}
-			return r
+		pureRows(t, "CharacteristicPoly", numbers, func(rows [][]int64) result {
+			return listResult(impl.CharacteristicPoly(7, rows))
 		})
 	}
 	pure(t, "CharacteristicPoly of one row three times", func(g *guards) result {

@@ -2,7 +2,9 @@ package tests
 
 import (
 	"math"
+	"runtime"
 	"slices"
+	"sync"
 	"testing"
 
 	"loop.example/g01283/impl"
@@ -181,6 +183,39 @@ func apart(t *testing.T, name string, all [][]int64, i int) {
 			t.Errorf("%s: its results %d and %d share memory", name, i, k)
 		}
 	}
+}
+
+// sameSideBySide checks that calls have the same results when many are made at the same time.
+func sameSideBySide(t *testing.T, calls []func() result) {
+	t.Helper()
+	var want []result
+	for _, call := range calls {
+		want = append(want, call().clone())
+	}
+	var group sync.WaitGroup
+	for range 8 {
+		group.Go(func() {
+			for i, call := range calls {
+				if r := call(); !r.equals(want[i]) {
+					t.Errorf("the call %d = %v, want %v", i, r, want[i])
+				}
+			}
+		})
+	}
+	group.Wait()
+}
+
+// noneLeft checks that there are no more goroutines than before. Those that are done may still be
+// about to end.
+func noneLeft(t *testing.T, before int) {
+	t.Helper()
+	for range 1000000 {
+		if runtime.NumGoroutine() <= before {
+			return
+		}
+		runtime.Gosched()
+	}
+	t.Errorf("%d goroutines, %d before", runtime.NumGoroutine(), before)
 }
 
 // dice is a row of numbers that look random and are the same in every run.

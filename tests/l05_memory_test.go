@@ -3,7 +3,6 @@ package tests
 import (
 	"runtime"
 	"slices"
-	"sync"
 	"testing"
 
 	"loop.example/g01283/impl"
@@ -109,21 +108,7 @@ func TestFractionsSideBySide(t *testing.T) {
 	for _, c := range listCalls {
 		calls = append(calls, func() result { return c.call(101, list) })
 	}
-	var want []result
-	for _, call := range calls {
-		want = append(want, call().clone())
-	}
-	var group sync.WaitGroup
-	for range 8 {
-		group.Go(func() {
-			for i, call := range calls {
-				if r := call(); !r.equals(want[i]) {
-					t.Errorf("the call %d = %v, want %v", i, r, want[i])
-				}
-			}
-		})
-	}
-	group.Wait()
+	sameSideBySide(t, calls)
 }
 
 // TestNoGoroutinesAreLeft checks that none waits for a receiver that has gone.
@@ -139,12 +124,5 @@ func TestNoGoroutinesAreLeft(t *testing.T) {
 		}
 		impl.PadeOf(7, make([]int64, 24), 12, 11)
 	}
-	// Those that have closed their channels may still be about to end.
-	for range 1000000 {
-		if runtime.NumGoroutine() <= before {
-			return
-		}
-		runtime.Gosched()
-	}
-	t.Errorf("%d goroutines, %d before", runtime.NumGoroutine(), before)
+	noneLeft(t, before)
 }

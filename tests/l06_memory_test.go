@@ -3,7 +3,6 @@ package tests
 import (
 	"runtime"
 	"slices"
-	"sync"
 	"testing"
 
 	"loop.example/g01283/impl"
@@ -70,21 +69,7 @@ func TestRootsSideBySide(t *testing.T) {
 	for _, c := range rootCalls {
 		calls = append(calls, func() result { return c.call(10007, f, g, 20) })
 	}
-	var want []result
-	for _, call := range calls {
-		want = append(want, call().clone())
-	}
-	var group sync.WaitGroup
-	for range 8 {
-		group.Go(func() {
-			for i, call := range calls {
-				if r := call(); !r.equals(want[i]) {
-					t.Errorf("the call %d = %v, want %v", i, r, want[i])
-				}
-			}
-		})
-	}
-	group.Wait()
+	sameSideBySide(t, calls)
 }
 
 // TestRootsAreJoined checks that no goroutine goes on, or reads a polynomial, behind the call.
@@ -102,12 +87,5 @@ func TestRootsAreJoined(t *testing.T) {
 		impl.CommonRoots(10007, copied, copied)
 		overwrite(copied)
 	}
-	// Those that are done may still be about to end.
-	for range 1000000 {
-		if runtime.NumGoroutine() <= before {
-			return
-		}
-		runtime.Gosched()
-	}
-	t.Errorf("%d goroutines, %d before", runtime.NumGoroutine(), before)
+	noneLeft(t, before)
 }

@@ -103,20 +103,28 @@ func slowOrthogonal(m impl.Moments, k int) []int64 {
 	return f
 }
 
-// slowMomentsOfJacobi takes the powers of the matrix one after the other.
 func slowMomentsOfJacobi(j impl.Jacobi, n int) []int64 {
-	p, matrix := j.Prime, slowMatrix(j)
+	list := make([]int64, n)
+	for k, power := range slowPowersOfMatrix(j, n) {
+		list[k] = j.Beta[0] * power[0][0] % j.Prime
+	}
+	return list
+}
+
+// slowPowersOfMatrix takes the first n powers of the matrix of data one after the other.
+func slowPowersOfMatrix(j impl.Jacobi, n int) [][][]int64 {
+	matrix := slowMatrix(j)
 	power := make([][]int64, len(matrix))
 	for i := range power {
 		power[i] = make([]int64, len(matrix))
 		power[i][i] = 1
 	}
-	list := make([]int64, n)
-	for k := range list {
-		list[k] = j.Beta[0] * power[0][0] % p
-		power = slowMatrixProduct(p, power, matrix)
+	powers := make([][][]int64, n)
+	for k := range powers {
+		powers[k] = power
+		power = slowMatrixProduct(j.Prime, power, matrix)
 	}
-	return list
+	return powers
 }
 
 func slowMatrixProduct(p int64, a, b [][]int64) [][]int64 {

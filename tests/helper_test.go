@@ -34,6 +34,9 @@ func pairResult(f, g []int64, code int64) result {
 	return result{lists: [][]int64{f, g}, code: code}
 }
 
+// first leaves out the code.
+func first[R any](r R, code int64) R { return r }
+
 // isZero reports whether everything beside the code has its zero value.
 func (r result) isZero() bool {
 	for _, f := range r.lists {

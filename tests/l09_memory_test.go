@@ -50,8 +50,6 @@ func TestRowsOfTriangles(t *testing.T) {
 	}
 }
 
-func first(rows [][]int64, code int64) [][]int64 { return rows }
-
 // TestListsOfPaths checks that each call has a list of texts of its own.
 func TestListsOfPaths(t *testing.T) {
 	texts, _ := impl.PathsOf(3, 1, 1, 2)
